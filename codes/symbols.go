@@ -1,0 +1,75 @@
+package codes
+
+// End is the symbol behind a block's last one.
+const End = 256
+
+// How many symbols stand for something. (The fixed codes have a few more, which no stream may use.)
+const (
+	Literals  = 286
+	Distances = 30
+	OfLengths = 19 // those by which a dynamic block tells its lengths
+)
+
+// The symbols by which a dynamic block tells its lengths, but for those that are a length themselves.
+const (
+	Again     = 16
+	Zeros     = 17
+	ManyZeros = 18
+)
+
+var order = [OfLengths]int{16, 17, 18, 0, 8, 7, 9, 6, 10, 5, 11, 4, 12, 3, 13, 2, 14, 1, 15}
+
+// Ordered tells whose length a dynamic block tells at i (0 to OfLengths - 1).
+func Ordered(i int) int { return order[i] }
+
+// Length tells the least length that a symbol (End + 1 to Literals - 1) stands for, and how many bits more it has.
+func Length(symbol int) (int, int) {
+	if symbol == Literals-1 {
+		return 258, 0 // the one that the rule of fours does not give
+	}
+	least, more := steps(symbol-End-1, 4)
+	return 3 + least, more
+}
+
+// Distance tells the least distance that a symbol (0 to Distances - 1) stands for, and how many bits more it has.
+func Distance(symbol int) (int, int) {
+	least, more := steps(symbol, 2)
+	return 1 + least, more
+}
+
+// steps: the first two groups of this many stand for one number each; every group behind has one bit more
+// than the one ahead, and goes on where that one ends.
+func steps(i, group int) (int, int) {
+	if i < 2*group {
+		return i, 0
+	}
+	more := i/group - 1
+	return (group + i%group) << more, more
+}
+
+// FixedLiterals are the lengths of a fixed block's literal codes.
+func FixedLiterals() []int {
+	lengths := make([]int, 288)
+	for i := range lengths {
+		switch {
+		case i < 144:
+			lengths[i] = 8
+		case i < 256:
+			lengths[i] = 9
+		case i < 280:
+			lengths[i] = 7
+		default:
+			lengths[i] = 8
+		}
+	}
+	return lengths
+}
+
+// FixedDistances are the lengths of a fixed block's distance codes.
+func FixedDistances() []int {
+	lengths := make([]int, 32)
+	for i := range lengths {
+		lengths[i] = 5
+	}
+	return lengths
+}

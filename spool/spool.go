@@ -1,0 +1,44 @@
+// Package spool: bytes, squeezed in members: see DOC.md.
+package spool
+
+import (
+	"spool/api"
+	"spool/inflate"
+	"spool/sum"
+)
+
+// Sum tells the sum of bytes (P2).
+func Sum(b []byte) uint32 { return sum.Of(b) }
+
+// Inflate reads a stream: what comes out, and how many bytes it has (P3, P4).
+func Inflate(b []byte, limit int) ([]byte, int, api.Errno) { return inflate.Stream(b, limit) }
+
+// Deflate writes a stream (P5, P6).
+func Deflate(b []byte, level int) ([]byte, api.Errno) { return nil, api.OK }
+
+// Wrap makes a member (P7).
+func Wrap(b []byte, level int) ([]byte, api.Errno) { return nil, api.OK }
+
+// Unwrap reads a member (P8).
+func Unwrap(b []byte) ([]byte, int, api.Errno) { return nil, 0, api.OK }
+
+// Pack makes an archive (P9).
+func Pack(b []byte, level int, workers int) ([]byte, api.Errno) { return nil, api.OK }
+
+// Unpack reads an archive (P10).
+func Unpack(b []byte) ([]byte, int, api.Errno) { return nil, 0, api.OK }
+
+// Index tells where members are (P11).
+func Index(b []byte) ([]api.Entry, int, api.Errno) { return nil, 0, api.OK }
+
+// Reader reads parts of an archive.
+type Reader struct{}
+
+// Open makes a reader (P12).
+func Open(b []byte, cache int) (*Reader, int, api.Errno) { return nil, 0, api.OK }
+
+// ReadAt reads a part (P12).
+func (r *Reader) ReadAt(from int, n int) ([]byte, api.Errno) { return nil, api.OK }
+
+// Loads tells how many members were read (P12).
+func (r *Reader) Loads() int { return 0 }
