@@ -37,8 +37,8 @@ func Distance(symbol int) (int, int) {
 	return 1 + least, more
 }
 
-// steps: the first two groups of this many stand for one number each; every group behind has one bit more
-// than the one ahead, and goes on where that one ends.
+// steps: symbols of the first two groups of this many stand for one number each; those of a group behind have one bit more
+// than those of the group ahead, and go on where these end.
 func steps(i, group int) (int, int) {
 	if i < 2*group {
 		return i, 0
