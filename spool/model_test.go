@@ -27,15 +27,20 @@ func modelInflate(b []byte, limit int) ([]byte, int, api.Errno) {
 	if limit < 0 || limit > 60000 {
 		return nil, 0, api.ErrArg
 	}
+	m := modelRead(b, limit)
+	if m.errno != api.OK {
+		return nil, 0, m.errno
+	}
+	return m.out, (m.at + 7) / 8, api.OK
+}
+
+func modelRead(b []byte, limit int) *model {
 	m := &model{bits: bitText(b), limit: limit}
 	for last := 0; last == 0 && m.errno == api.OK; {
 		last = m.number(1)
 		m.block(m.number(2))
 	}
-	if m.errno != api.OK {
-		return nil, 0, m.errno
-	}
-	return m.out, (m.at + 7) / 8, api.OK
+	return m
 }
 
 func bitText(b []byte) string {

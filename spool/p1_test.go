@@ -126,3 +126,58 @@ func TestP1AnswersHangOnArgumentsAlone(t *testing.T) {
 	}
 	group.Wait()
 }
+
+func TestP1DeflateEndsWithoutPanic(t *testing.T) {
+	random := rand.New(rand.NewSource(11))
+	for range 300 {
+		b := anyBytes(random, random.Intn(300))
+		for _, level := range []int{math.MinInt, -1, 0, 1, 5, 9, 10, math.MaxInt} {
+			s, e := spool.Deflate(b, level)
+			if wrong := level < 0 || level > 9; wrong && (s != nil || e != api.ErrArg) || !wrong && (len(s) == 0 || e != api.OK) {
+				t.Fatalf("Deflate(%v, %d) = %v, %d", b, level, s, e)
+			}
+		}
+	}
+}
+
+func TestP1DeflateLeavesWhatIsHandedIn(t *testing.T) {
+	for _, text := range texts() {
+		for level := -1; level <= 10; level++ {
+			whole, part := guarded([]byte(text))
+			before := bytes.Clone(whole)
+			s, _ := spool.Deflate(part, level)
+			if !bytes.Equal(whole, before) {
+				t.Fatalf("Deflate wrote into %s: %s", short(before), short(whole))
+			}
+			kept := bytes.Clone(s)
+			clear(whole)
+			if !bytes.Equal(s, kept) {
+				t.Fatalf("level %d: the stream hangs on what was handed in", level)
+			}
+			for i := range s[:cap(s)] {
+				s[:cap(s)][i] = 'x'
+			}
+			if !bytes.Equal(whole, make([]byte, len(whole))) {
+				t.Fatalf("level %d: the stream lies in what was handed in", level)
+			}
+		}
+	}
+}
+
+func TestP1StreamsAreNewMemory(t *testing.T) {
+	for _, text := range texts() {
+		for level := range 10 {
+			first, _ := spool.Deflate([]byte(text), level)
+			want := bytes.Clone(first)
+			second, _ := spool.Deflate([]byte(text), level)
+			room := first[:cap(first)]
+			for i := range room {
+				room[i] = 'x'
+			}
+			third, _ := spool.Deflate([]byte(text), level)
+			if !bytes.Equal(second, want) || !bytes.Equal(third, want) {
+				t.Fatalf("level %d: after writing into an answer: %s, %s, want %s", level, short(second), short(third), short(want))
+			}
+		}
+	}
+}

@@ -3,6 +3,7 @@ package spool
 
 import (
 	"spool/api"
+	"spool/deflate"
 	"spool/inflate"
 	"spool/sum"
 )
@@ -14,7 +15,7 @@ func Sum(b []byte) uint32 { return sum.Of(b) }
 func Inflate(b []byte, limit int) ([]byte, int, api.Errno) { return inflate.Stream(b, limit) }
 
 // Deflate writes a stream (P5, P6).
-func Deflate(b []byte, level int) ([]byte, api.Errno) { return nil, api.OK }
+func Deflate(b []byte, level int) ([]byte, api.Errno) { return deflate.Stream(b, level) }
 
 // Wrap makes a member (P7).
 func Wrap(b []byte, level int) ([]byte, api.Errno) { return nil, api.OK }
