@@ -5,6 +5,7 @@ import (
 	"spool/api"
 	"spool/deflate"
 	"spool/inflate"
+	"spool/member"
 	"spool/sum"
 )
 
@@ -18,10 +19,10 @@ func Inflate(b []byte, limit int) ([]byte, int, api.Errno) { return inflate.Stre
 func Deflate(b []byte, level int) ([]byte, api.Errno) { return deflate.Stream(b, level) }
 
 // Wrap makes a member (P7).
-func Wrap(b []byte, level int) ([]byte, api.Errno) { return nil, api.OK }
+func Wrap(b []byte, level int) ([]byte, api.Errno) { return member.Wrap(b, level) }
 
 // Unwrap reads a member (P8).
-func Unwrap(b []byte) ([]byte, int, api.Errno) { return nil, 0, api.OK }
+func Unwrap(b []byte) ([]byte, int, api.Errno) { return member.Unwrap(b) }
 
 // Pack makes an archive (P9).
 func Pack(b []byte, level int, workers int) ([]byte, api.Errno) { return nil, api.OK }
