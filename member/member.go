@@ -1,4 +1,4 @@
-// Package member makes and reads members (P7, P8).
+// Package member makes and reads members (P7, P8), and looks at them without reading them (for P11).
 package member
 
 import (
@@ -36,7 +36,7 @@ func Wrap(b []byte, level int) ([]byte, api.Errno) {
 
 // Unwrap reads the member that b begins with: what comes out, and how many bytes it has; or an error and its place.
 func Unwrap(b []byte) ([]byte, int, api.Errno) {
-	size, errno := Size(b)
+	size, errno := length(b)
 	if errno != api.OK {
 		return nil, size, errno
 	}
@@ -56,9 +56,19 @@ func Unwrap(b []byte) ([]byte, int, api.Errno) {
 	return out, size, api.OK
 }
 
-// Size tells how many bytes the member has that b begins with, by what stands ahead of its stream alone;
+// Look tells of the member that b begins with how many bytes come out of it, by its last four bytes, and how many it has;
+// or an error and its place. Its stream and its sum are not looked at, so what it says may be wrong.
+func Look(b []byte) (uint32, int, api.Errno) {
+	size, errno := length(b)
+	if errno != api.OK {
+		return 0, size, errno
+	}
+	return four(b[size-4:]), size, api.OK
+}
+
+// length tells how many bytes the member has that b begins with, by what stands ahead of its stream alone;
 // or an error and its place. Without an error b has so many.
-func Size(b []byte) (int, api.Errno) {
+func length(b []byte) (int, api.Errno) {
 	for i, c := range head {
 		if i == len(b) {
 			return i, api.ErrShort

@@ -9,25 +9,34 @@ import (
 	"spool/spool"
 )
 
-// modelUnwrap reads a member as P8 words it, one sentence behind the other.
-func modelUnwrap(b []byte) ([]byte, int, api.Errno) {
+// modelAhead reads what stands ahead of a member's stream: how many bytes the member has.
+func modelAhead(b []byte) (int, api.Errno) {
 	for at := 0; at < 16; at++ {
 		if at >= len(b) {
-			return nil, len(b), api.ErrShort
+			return len(b), api.ErrShort
 		}
 		if b[at] != sixteen[at] {
-			return nil, at, api.ErrData
+			return at, api.ErrData
 		}
 	}
 	if len(b) == 16 || len(b) == 17 {
-		return nil, len(b), api.ErrShort
+		return len(b), api.ErrShort
 	}
 	size := 1 + int(b[16]) + 256*int(b[17])
 	if size < 28 {
-		return nil, 16, api.ErrData
+		return 16, api.ErrData
 	}
 	if len(b) < size {
-		return nil, len(b), api.ErrShort
+		return len(b), api.ErrShort
+	}
+	return size, api.OK
+}
+
+// modelUnwrap reads a member as P8 words it, one sentence behind the other.
+func modelUnwrap(b []byte) ([]byte, int, api.Errno) {
+	size, e := modelAhead(b)
+	if e != api.OK {
+		return nil, size, e
 	}
 	between := b[18 : size-8]
 	out, used, e := modelInflate(between, 4000)

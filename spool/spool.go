@@ -3,9 +3,11 @@ package spool
 
 import (
 	"spool/api"
+	"spool/archive"
 	"spool/deflate"
 	"spool/inflate"
 	"spool/member"
+	"spool/reader"
 	"spool/sum"
 )
 
@@ -25,22 +27,30 @@ func Wrap(b []byte, level int) ([]byte, api.Errno) { return member.Wrap(b, level
 func Unwrap(b []byte) ([]byte, int, api.Errno) { return member.Unwrap(b) }
 
 // Pack makes an archive (P9).
-func Pack(b []byte, level int, workers int) ([]byte, api.Errno) { return nil, api.OK }
+func Pack(b []byte, level int, workers int) ([]byte, api.Errno) {
+	return archive.Pack(b, level, workers)
+}
 
 // Unpack reads an archive (P10).
-func Unpack(b []byte) ([]byte, int, api.Errno) { return nil, 0, api.OK }
+func Unpack(b []byte) ([]byte, int, api.Errno) { return archive.Unpack(b) }
 
 // Index tells where members are (P11).
-func Index(b []byte) ([]api.Entry, int, api.Errno) { return nil, 0, api.OK }
+func Index(b []byte) ([]api.Entry, int, api.Errno) { return archive.Index(b) }
 
 // Reader reads parts of an archive.
-type Reader struct{}
+type Reader struct{ inner *reader.Reader }
 
 // Open makes a reader (P12).
-func Open(b []byte, cache int) (*Reader, int, api.Errno) { return nil, 0, api.OK }
+func Open(b []byte, cache int) (*Reader, int, api.Errno) {
+	inner, n, errno := reader.Open(b, cache)
+	if errno != api.OK {
+		return nil, n, errno
+	}
+	return &Reader{inner}, n, api.OK
+}
 
 // ReadAt reads a part (P12).
-func (r *Reader) ReadAt(from int, n int) ([]byte, api.Errno) { return nil, api.OK }
+func (r *Reader) ReadAt(from int, n int) ([]byte, api.Errno) { return r.inner.ReadAt(from, n) }
 
 // Loads tells how many members were read (P12).
-func (r *Reader) Loads() int { return 0 }
+func (r *Reader) Loads() int { return r.inner.Loads() }
